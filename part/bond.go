@@ -5,6 +5,7 @@ import (
 	"slices"
 
 	"fretwork/api"
+	"fretwork/fours"
 )
 
 // bond is the look of a bond from its k-th link.
@@ -22,13 +23,13 @@ func bond(d api.Dress, k int, there bool) api.Seen {
 		slices.Reverse(out.Verts)
 	}
 	colours = gone(colours, there)
-	out.Code = four(nil, d.Part.Kind)
+	out.Code = fours.Put(nil, d.Part.Kind)
 	for _, n := range [...]int{colours[0], colours[1], len(d.Side)} {
-		out.Code = four(out.Code, n)
+		out.Code = fours.Put(out.Code, n)
 	}
 	for _, i := range out.Links {
 		c := gone(d.Side[i], there)
-		out.Code = four(four(out.Code, c[0]), c[1])
+		out.Code = fours.Put(fours.Put(out.Code, c[0]), c[1])
 		out.There = append(out.There, there)
 	}
 	return out

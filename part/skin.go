@@ -6,6 +6,7 @@ import (
 
 	"fretwork/api"
 	"fretwork/embed"
+	"fretwork/fours"
 	"fretwork/links"
 	"fretwork/rigid"
 )
@@ -32,12 +33,12 @@ func sewn(d api.Dress) (suit, api.Errno) {
 	}
 	colours := map[[2]int][]byte{}
 	for i, e := range s.edges {
-		colours[e] = four(nil, d.Side[i][0])
-		colours[[2]int{e[1], e[0]}] = four(nil, d.Side[i][1])
+		colours[e] = fours.Put(nil, d.Side[i][0])
+		colours[[2]int{e[1], e[0]}] = fours.Put(nil, d.Side[i][1])
 	}
 	s.skin = api.Skin{Rot: r, Vert: make([][]byte, len(r)), Dart: make([][][]byte, len(r))}
 	for v, circle := range r {
-		s.skin.Vert[v] = four(nil, d.Vert[v])
+		s.skin.Vert[v] = fours.Put(nil, d.Vert[v])
 		for _, w := range circle {
 			s.skin.Dart[v] = append(s.skin.Dart[v], colours[[2]int{v, w}])
 		}
@@ -77,7 +78,7 @@ func (s suit) best() api.Seen {
 
 // seen is the look that a walk has.
 func (s suit) seen(w api.Walked) api.Seen {
-	out := api.Seen{Code: append(four(nil, s.Part.Kind), w.Code...)}
+	out := api.Seen{Code: append(fours.Put(nil, s.Part.Kind), w.Code...)}
 	place := make([]int, len(s.verts))
 	for i, v := range w.Order {
 		place[v] = i

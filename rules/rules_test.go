@@ -17,7 +17,7 @@ import (
 // library is what the program may import beside its own packages.
 const library = " bytes cmp container/heap errors iter maps math math/bits slices sort strconv strings sync sync/atomic unicode unicode/utf8 "
 
-// calls is, of each layer, which layers it may call; api may be called by all.
+// calls is, of each layer, which layers it may call; api and fours may be called by all.
 var calls = map[string]string{
 	"api": "", "strand": "", "graph": "strand", "perm": "graph", "walk": "graph",
 	"low": "graph walk", "blocks": "graph walk low", "faces": "graph walk", "bridge": "graph",
@@ -27,7 +27,7 @@ var calls = map[string]string{
 	"bough": "graph walk blocks limb", "canon": "graph perm walk bough", "decode": "graph walk canon",
 	"iso": "graph perm canon", "auto": "graph perm canon", "catalogue": "canon decode",
 	"player":  "graph perm walk low faces kura planar iso auto catalogue",
-	"samples": "",
+	"samples": "", "fours": "",
 }
 
 // sources are the paths of the program's own files, without tests.
@@ -82,7 +82,7 @@ func checkImports(t *testing.T, path string, file *ast.File) {
 	for _, im := range file.Imports {
 		name := strings.Trim(im.Path.Value, `"`)
 		own, ok := strings.CutPrefix(name, "fretwork/")
-		if ok && own != "api" && !slices.Contains(strings.Fields(below), own) {
+		if ok && own != "api" && own != "fours" && !slices.Contains(strings.Fields(below), own) {
 			t.Errorf("%s calls %s", path, own)
 		}
 		if !ok && !strings.Contains(library, " "+name+" ") {
