@@ -11,6 +11,14 @@ func Put(out []byte, n int) []byte {
 	return append(out, byte(n>>24), byte(n>>16), byte(n>>8), byte(n))
 }
 
+// Get answers the number that b begins with, and what stands behind it; false, if there are less than four bytes.
+func Get(b []byte) (int, []byte, bool) {
+	if len(b) < 4 {
+		return 0, nil, false
+	}
+	return int(b[0])<<24 | int(b[1])<<16 | int(b[2])<<8 | int(b[3]), b[4:], true
+}
+
 // Code answers the numbers that tell a tinted graph by an order of its vertices, which are called from 0 on: how many there are, their tints, how many edges there are, and these by the places of their ends, rising. False, unless all vertices stand in the order once.
 func Code(tints []int, edges [][2]int, order []int) ([]byte, bool) {
 	n := len(tints)

@@ -13,6 +13,15 @@ func TestPut(t *testing.T) {
 	}
 }
 
+func TestGet(t *testing.T) {
+	if n, rest, ok := fours.Get([]byte{255, 1, 2, 3, 9}); !ok || n != 0xff010203 || !bytes.Equal(rest, []byte{9}) {
+		t.Error(n, rest, ok)
+	}
+	if n, rest, ok := fours.Get([]byte{1, 2, 3}); ok || n != 0 || rest != nil {
+		t.Error(n, rest, ok)
+	}
+}
+
 func TestCode(t *testing.T) {
 	tints, edges := []int{5, 6, 7}, [][2]int{{0, 1}, {0, 2}}
 	want := []byte{0, 0, 0, 3, 0, 0, 0, 7, 0, 0, 0, 5, 0, 0, 0, 6, 0, 0, 0, 2, 0, 0, 0, 0, 0, 0, 0, 1, 0, 0, 0, 1, 0, 0, 0, 2}
