@@ -13,24 +13,6 @@ import (
 	"fretwork/walk"
 )
 
-// few are n tints below most.
-func few(d *samples.Dice, n, most int) []int {
-	out := make([]int, n)
-	for i := range out {
-		out[i] = d.Roll(most)
-	}
-	return out
-}
-
-// numbers are four bytes each.
-func numbers(ns ...int) []byte {
-	var out []byte
-	for _, n := range ns {
-		out = append(out, byte(n>>24), byte(n>>16), byte(n>>8), byte(n))
-	}
-	return out
-}
-
 // connected is a connected planar graph of n vertices, by chance: blocks hung on one another.
 func connected(d *samples.Dice, n int) api.Graph {
 	g := d.Tree(1 + d.Roll(max(1, n/4)))
@@ -89,10 +71,10 @@ func TestWrong(t *testing.T) {
 
 func TestExamples(t *testing.T) {
 	n, e := bough.Canon(samples.Path(1), []int{5})
-	if e != api.OK || !slices.Equal(n.Order, []int{0}) || !bytes.Equal(n.Code, numbers(1, 5, 0)) {
+	if e != api.OK || !slices.Equal(n.Order, []int{0}) || !bytes.Equal(n.Code, samples.Numbers(1, 5, 0)) {
 		t.Error(n, e)
 	}
-	if c, e := bough.Code(samples.Path(3), make([]int, 3), []int{1, 0, 2}); e != api.OK || !bytes.Equal(c, numbers(3, 0, 0, 0, 2, 0, 1, 0, 2)) {
+	if c, e := bough.Code(samples.Path(3), make([]int, 3), []int{1, 0, 2}); e != api.OK || !bytes.Equal(c, samples.Numbers(3, 0, 0, 0, 2, 0, 1, 0, 2)) {
 		t.Error(c, e)
 	}
 	a, _ := bough.Canon(samples.Star(3), make([]int, 4))
@@ -114,41 +96,20 @@ func canon(t *testing.T, g api.Graph, tints []int) string {
 	return string(n.Code)
 }
 
-// called calls a graph and its tints anew.
-func called(g api.Graph, tints, p []int) (api.Graph, []int) {
-	out := make([]int, g.N)
-	for v, c := range tints {
-		out[p[v]] = c
-	}
-	return samples.Called(g, p), out
-}
-
 func TestCalledAnew(t *testing.T) {
 	var d samples.Dice
 	for n := 1; n <= 190; n += 1 + n/20 {
 		for _, g := range []api.Graph{connected(&d, n), connected(&d, 1+n/6), d.Tree(n), samples.Path(n), samples.Star(n)} {
-			tints := few(&d, g.N, 1+d.Roll(2))
+			tints := d.Tints(g.N, 1+d.Roll(2))
 			if d.Roll(3) == 0 {
 				tints[0] = api.MaxTint - 1
 			}
-			h, others := called(g, tints, d.Perm(g.N))
+			h, others := samples.TintedCalled(g, tints, d.Perm(g.N))
 			if canon(t, g, tints) != canon(t, h, others) {
 				t.Error(g, tints, h, others)
 			}
 		}
 	}
-}
-
-// alike tells, by trying all maps, whether there is one that keeps tints.
-func alike(g api.Graph, tints []int, h api.Graph, others []int) bool {
-	return slices.ContainsFunc(samples.Maps(g, h, 1<<30), func(p []int) bool {
-		for v, w := range p {
-			if tints[v] != others[w] {
-				return false
-			}
-		}
-		return true
-	})
 }
 
 func TestAgainstAllMaps(t *testing.T) {
@@ -163,11 +124,11 @@ func TestAgainstAllMaps(t *testing.T) {
 		if g.N != h.N || g.N > 9 || len(g.Edges) != len(h.Edges) {
 			continue
 		}
-		tints, others := few(&d, g.N, 1+d.Roll(2)), few(&d, h.N, 2)
+		tints, others := d.Tints(g.N, 1+d.Roll(2)), d.Tints(h.N, 2)
 		if slices.Max(tints) == 0 || d.Roll(2) == 0 {
 			others = slices.Clone(tints)
 		}
-		same := alike(g, tints, h, others)
+		same := samples.TintedMapped(g, tints, h, others)
 		if (canon(t, g, tints) == canon(t, h, others)) != same {
 			t.Fatal(g, tints, h, others, same)
 		}
@@ -212,7 +173,7 @@ func TestLarge(t *testing.T) {
 	begin := time.Now()
 	for _, g := range []api.Graph{d.Tree(200), samples.Path(200), samples.Star(199), connected(&d, 190), d.Triangles(200)} {
 		tints := make([]int, g.N)
-		h, others := called(g, tints, d.Perm(g.N))
+		h, others := samples.TintedCalled(g, tints, d.Perm(g.N))
 		if canon(t, g, tints) != canon(t, h, others) {
 			t.Error(g.N)
 		}

@@ -15,24 +15,6 @@ import (
 	"fretwork/samples"
 )
 
-// few are n tints below most.
-func few(d *samples.Dice, n, most int) []int {
-	out := make([]int, n)
-	for i := range out {
-		out[i] = d.Roll(most)
-	}
-	return out
-}
-
-// numbers are four bytes each.
-func numbers(ns ...int) []byte {
-	var out []byte
-	for _, n := range ns {
-		out = append(out, byte(n>>24), byte(n>>16), byte(n>>8), byte(n))
-	}
-	return out
-}
-
 func TestWrong(t *testing.T) {
 	for i, x := range []struct {
 		g     api.Graph
@@ -76,7 +58,7 @@ func TestExamples(t *testing.T) {
 	if b, _ := graph.Bytes(api.Graph{}); e != api.OK || !bytes.Equal(c.Code, b) || len(c.Perm) != 0 {
 		t.Error(c, e)
 	}
-	if n, e := canon.Tinted(api.Graph{}, nil); e != api.OK || !bytes.Equal(n.Code, numbers(0, 0)) || len(n.Order) != 0 {
+	if n, e := canon.Tinted(api.Graph{}, nil); e != api.OK || !bytes.Equal(n.Code, samples.Numbers(0, 0)) || len(n.Order) != 0 {
 		t.Error(n, e)
 	}
 	a, _ := canon.Canon(samples.Of(4, [2]int{0, 2}, [2]int{1, 3}))
@@ -87,10 +69,10 @@ func TestExamples(t *testing.T) {
 		t.Error(a, b, x, y)
 	}
 	n, e := canon.Tinted(api.Graph{N: 2}, []int{7, 4})
-	if e != api.OK || !bytes.Equal(n.Code, numbers(2, 4, 7, 0)) && !bytes.Equal(n.Code, numbers(2, 7, 4, 0)) {
+	if e != api.OK || !bytes.Equal(n.Code, samples.Numbers(2, 4, 7, 0)) && !bytes.Equal(n.Code, samples.Numbers(2, 7, 4, 0)) {
 		t.Error(n, e)
 	}
-	if c, e := canon.Code(samples.Path(3), []int{4, 5, 6}, []int{2, 0, 1}); e != api.OK || !bytes.Equal(c, numbers(3, 6, 4, 5, 2, 0, 2, 1, 2)) {
+	if c, e := canon.Code(samples.Path(3), []int{4, 5, 6}, []int{2, 0, 1}); e != api.OK || !bytes.Equal(c, samples.Numbers(3, 6, 4, 5, 2, 0, 2, 1, 2)) {
 		t.Error(c, e)
 	}
 }
@@ -121,21 +103,12 @@ func tinted(t *testing.T, g api.Graph, tints []int) string {
 	return string(n.Code)
 }
 
-// called calls a graph and its tints anew.
-func called(g api.Graph, tints, p []int) (api.Graph, []int) {
-	out := make([]int, g.N)
-	for v, c := range tints {
-		out[p[v]] = c
-	}
-	return samples.Called(g, p), out
-}
-
 func TestCalledAnew(t *testing.T) {
 	var d samples.Dice
 	for n := 3; n <= 200; n += 1 + n/20 {
 		for _, g := range []api.Graph{d.Planar(n, n/2), d.Planar(n, n), d.Planar(n, 2*n), d.Triangles(n), d.Tree(n), {N: n}} {
-			tints := few(&d, g.N, 1+d.Roll(3))
-			h, others := called(g, tints, d.Perm(g.N))
+			tints := d.Tints(g.N, 1+d.Roll(3))
+			h, others := samples.TintedCalled(g, tints, d.Perm(g.N))
 			if tinted(t, g, tints) != tinted(t, h, others) || code(t, g) != code(t, h) {
 				t.Error(g, tints, h, others)
 			}
@@ -179,18 +152,6 @@ func TestAllSmall(t *testing.T) {
 	}
 }
 
-// alike tells, by trying all maps, whether there is one that keeps tints.
-func alike(g api.Graph, tints []int, h api.Graph, others []int) bool {
-	return slices.ContainsFunc(samples.Maps(g, h, 1<<30), func(p []int) bool {
-		for v, w := range p {
-			if tints[v] != others[w] {
-				return false
-			}
-		}
-		return true
-	})
-}
-
 func TestTintedAgainstAllMaps(t *testing.T) {
 	var d samples.Dice
 	var yes, no int
@@ -204,11 +165,11 @@ func TestTintedAgainstAllMaps(t *testing.T) {
 		if len(g.Edges) != len(h.Edges) {
 			continue
 		}
-		tints, others := few(&d, n, 1+d.Roll(2)), few(&d, n, 2)
+		tints, others := d.Tints(n, 1+d.Roll(2)), d.Tints(n, 2)
 		if slices.Max(tints) == 0 || d.Roll(2) == 0 {
 			others = slices.Clone(tints)
 		}
-		same := alike(g, tints, h, others)
+		same := samples.TintedMapped(g, tints, h, others)
 		if (tinted(t, g, tints) == tinted(t, h, others)) != same {
 			t.Fatal(g, tints, h, others, same)
 		}

@@ -14,15 +14,6 @@ import (
 	"fretwork/samples"
 )
 
-// numbers are four bytes each.
-func numbers(ns ...int) []byte {
-	var out []byte
-	for _, n := range ns {
-		out = append(out, byte(n>>24), byte(n>>16), byte(n>>8), byte(n))
-	}
-	return out
-}
-
 // code is the code of a planar graph.
 func code(g api.Graph) []byte {
 	c, _ := canon.Canon(g)
@@ -31,9 +22,9 @@ func code(g api.Graph) []byte {
 
 // exported is the bytes of classes: graphs, and how often each was put.
 func exported(puts int, l ...api.Graph) []byte {
-	out := numbers(len(l))
+	out := samples.Numbers(len(l))
 	for _, g := range l {
-		out = append(out, numbers(puts, len(code(g)))...)
+		out = append(out, samples.Numbers(puts, len(code(g)))...)
 		out = append(out, code(g)...)
 	}
 	return out
@@ -48,7 +39,7 @@ func TestNew(t *testing.T) {
 		}
 	}
 	for _, most := range []int{0, 1, api.MaxClasses} {
-		if c, e := catalogue.New(most); c == nil || e != api.OK || c.Len() != 0 || !bytes.Equal(c.Export(), numbers(0)) {
+		if c, e := catalogue.New(most); c == nil || e != api.OK || c.Len() != 0 || !bytes.Equal(c.Export(), samples.Numbers(0)) {
 			t.Error(most, e)
 		}
 	}
@@ -107,7 +98,7 @@ func TestExamples(t *testing.T) {
 		}
 	}
 	path := code(samples.Path(3))
-	want := slices.Concat(numbers(2, 2, len(path)), path, numbers(1, len(code(api.Graph{N: 2}))), code(api.Graph{N: 2}))
+	want := slices.Concat(samples.Numbers(2, 2, len(path)), path, samples.Numbers(1, len(code(api.Graph{N: 2}))), code(api.Graph{N: 2}))
 	b := c.Export()
 	if !bytes.Equal(b, want) {
 		t.Error(b, want)
@@ -123,15 +114,15 @@ func TestExamples(t *testing.T) {
 func TestImportWrong(t *testing.T) {
 	one, two := samples.Path(2), samples.Ring(3)
 	good := exported(1, one, two)
-	called := numbers(1, 1)
+	called := samples.Numbers(1, 1)
 	for _, p := range [][]int{{0, 1, 2}, {1, 0, 2}} { // one of both at least is called otherwise than its code tells
 		if b, _ := graph.Bytes(samples.Called(samples.Path(3), p)); !bytes.Equal(b, code(samples.Path(3))) {
-			called = slices.Concat(numbers(1, 1, len(b)), b)
+			called = slices.Concat(samples.Numbers(1, 1, len(b)), b)
 		}
 	}
 	for i, b := range [][]byte{
-		nil, {0}, {0, 0, 0}, numbers(1), numbers(-1), numbers(1 << 31), numbers(0, 0), append(slices.Clone(good), 0), good[1:], exported(0, one), exported(-1, one), exported(1<<31, one), exported(1, one, one), exported(1, one, two, one),
-		numbers(1, 1, 0), numbers(1, 1, -1), numbers(1, 1, 1<<31-1), slices.Concat(numbers(1, 1, 1), []byte{0}), called, slices.Concat(numbers(3), good[4:]), slices.Concat(numbers(1), good[4:]),
+		nil, {0}, {0, 0, 0}, samples.Numbers(1), samples.Numbers(-1), samples.Numbers(1 << 31), samples.Numbers(0, 0), append(slices.Clone(good), 0), good[1:], exported(0, one), exported(-1, one), exported(1<<31, one), exported(1, one, one), exported(1, one, two, one),
+		samples.Numbers(1, 1, 0), samples.Numbers(1, 1, -1), samples.Numbers(1, 1, 1<<31-1), slices.Concat(samples.Numbers(1, 1, 1), []byte{0}), called, slices.Concat(samples.Numbers(3), good[4:]), slices.Concat(samples.Numbers(1), good[4:]),
 	} {
 		if c, e := catalogue.Import(0, b); c != nil || e != api.ErrCat {
 			t.Error(i, e)
@@ -145,7 +136,7 @@ func TestImportWrong(t *testing.T) {
 			t.Error(cut, e)
 		}
 	}
-	if c, e := catalogue.Import(0, numbers(0)); e != api.OK || c.Len() != 0 {
+	if c, e := catalogue.Import(0, samples.Numbers(0)); e != api.OK || c.Len() != 0 {
 		t.Error(e)
 	}
 	if c, e := catalogue.Import(1, exported(1<<31-1, one)); e != api.OK || !bytes.Equal(c.Export(), exported(1<<31-1, one)) {

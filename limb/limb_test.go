@@ -24,24 +24,6 @@ func real(g api.Graph) []api.Link {
 	return l
 }
 
-// few are n tints below most.
-func few(d *samples.Dice, n, most int) []int {
-	out := make([]int, n)
-	for i := range out {
-		out[i] = d.Roll(most)
-	}
-	return out
-}
-
-// numbers are four bytes each.
-func numbers(ns ...int) []byte {
-	var out []byte
-	for _, n := range ns {
-		out = append(out, byte(n>>24), byte(n>>16), byte(n>>8), byte(n))
-	}
-	return out
-}
-
 func TestWrong(t *testing.T) {
 	ring := real(samples.Ring(3))
 	for i, x := range []struct {
@@ -79,25 +61,16 @@ func twoTwisted() api.Graph {
 
 func TestExamples(t *testing.T) {
 	n, e := limb.Canon([]api.Link{link(4, 7, 0)}, []int{9, 2})
-	if want := numbers(2, 2, 9, 1, 0, 1); e != api.OK || !slices.Equal(n.Order, []int{7, 4}) && !slices.Equal(n.Order, []int{4, 7}) || n.Order[0] == 7 && !bytes.Equal(n.Code, want) {
+	if want := samples.Numbers(2, 2, 9, 1, 0, 1); e != api.OK || !slices.Equal(n.Order, []int{7, 4}) && !slices.Equal(n.Order, []int{4, 7}) || n.Order[0] == 7 && !bytes.Equal(n.Code, want) {
 		t.Error(n, e)
 	}
 	if m, _ := limb.Canon([]api.Link{link(1, 2, 0)}, []int{2, 9}); !bytes.Equal(m.Code, n.Code) {
 		t.Error(m, n)
 	}
 	triangle := []api.Link{link(0, 1, 0), link(0, 2, 0), link(1, 2, 0)}
-	if c, e := limb.Code(triangle, []int{5, 6, 7}, []int{2, 0, 1}); e != api.OK || !bytes.Equal(c, numbers(3, 7, 5, 6, 3, 0, 1, 0, 2, 1, 2)) {
+	if c, e := limb.Code(triangle, []int{5, 6, 7}, []int{2, 0, 1}); e != api.OK || !bytes.Equal(c, samples.Numbers(3, 7, 5, 6, 3, 0, 1, 0, 2, 1, 2)) {
 		t.Error(c, e)
 	}
-}
-
-// called calls a graph and its tints anew.
-func called(g api.Graph, tints, p []int) (api.Graph, []int) {
-	out := make([]int, g.N)
-	for v, c := range tints {
-		out[p[v]] = c
-	}
-	return samples.Called(g, p), out
 }
 
 // canon is what Canon tells, held against Code.
@@ -116,25 +89,13 @@ func TestCalledAnew(t *testing.T) {
 	var d samples.Dice
 	for n := 3; n <= 200; n += 1 + n/12 {
 		for _, g := range []api.Graph{d.Strung(n), d.Strung(3 + n/8), samples.Ring(n), samples.Bipartite(2, 1+n/2), samples.Wheel(2 + n/2), samples.Grid(3, 2+n/4)} {
-			tints := few(&d, g.N, 1+d.Roll(2))
-			h, others := called(g, tints, d.Perm(g.N))
+			tints := d.Tints(g.N, 1+d.Roll(2))
+			h, others := samples.TintedCalled(g, tints, d.Perm(g.N))
 			if g.N >= 3 && canon(t, g, tints) != canon(t, h, others) {
 				t.Error(g, tints, h, others)
 			}
 		}
 	}
-}
-
-// alike tells, by trying all maps, whether there is one that keeps tints.
-func alike(g api.Graph, tints []int, h api.Graph, others []int) bool {
-	return slices.ContainsFunc(samples.Maps(g, h, 1<<30), func(p []int) bool {
-		for v, w := range p {
-			if tints[v] != others[w] {
-				return false
-			}
-		}
-		return true
-	})
 }
 
 func TestAgainstAllMaps(t *testing.T) {
@@ -149,11 +110,11 @@ func TestAgainstAllMaps(t *testing.T) {
 		if g.N != h.N || len(g.Edges) != len(h.Edges) {
 			continue
 		}
-		tints, others := few(&d, g.N, 1+d.Roll(2)), few(&d, h.N, 2)
+		tints, others := d.Tints(g.N, 1+d.Roll(2)), d.Tints(h.N, 2)
 		if slices.Max(tints) == 0 || d.Roll(2) == 0 {
 			others = slices.Clone(tints)
 		}
-		same := alike(g, tints, h, others)
+		same := samples.TintedMapped(g, tints, h, others)
 		if (canon(t, g, tints) == canon(t, h, others)) != same {
 			t.Fatal(g, tints, h, others, same)
 		}
@@ -194,7 +155,7 @@ func TestLarge(t *testing.T) {
 	begin := time.Now()
 	for _, g := range []api.Graph{d.Triangles(200), d.Triangles(200), samples.Wheel(199), samples.Prism(100), samples.Grid(14, 14), samples.Bipartite(2, 198), samples.Ring(200)} {
 		tints := make([]int, g.N)
-		h, others := called(g, tints, d.Perm(g.N))
+		h, others := samples.TintedCalled(g, tints, d.Perm(g.N))
 		if canon(t, g, tints) != canon(t, h, others) {
 			t.Error(g.N)
 		}

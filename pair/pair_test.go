@@ -15,15 +15,6 @@ import (
 
 func link(a, b, v int) api.Link { return api.Link{A: a, B: b, V: v} }
 
-// real are a graph's edges as links.
-func real(g api.Graph) []api.Link {
-	var out []api.Link
-	for _, e := range g.Edges {
-		out = append(out, link(e[0], e[1], 0))
-	}
-	return out
-}
-
 // side answers n links side by side.
 func side(n int) []api.Link {
 	var out []api.Link
@@ -34,7 +25,7 @@ func side(n int) []api.Link {
 }
 
 func TestErrors(t *testing.T) {
-	for i, l := range [][]api.Link{nil, real(samples.Path(3)), {link(1, 0, 0)}, {link(0, 1, 0), link(0, 1, 0)}, real(samples.Beside(samples.Ring(3), samples.Ring(3))), real(samples.Star(3))} {
+	for i, l := range [][]api.Link{nil, samples.Links(samples.Path(3)), {link(1, 0, 0)}, {link(0, 1, 0), link(0, 1, 0)}, samples.Links(samples.Beside(samples.Ring(3), samples.Ring(3))), samples.Links(samples.Star(3))} {
 		c, e := pair.Classes(l, 0, 1)
 		p, f := pair.Parts(l, 0, 1)
 		a, b, ok, g := pair.First(l)
@@ -43,8 +34,8 @@ func TestErrors(t *testing.T) {
 		}
 	}
 	for _, x := range [][2]int{{0, 0}, {0, 4}, {4, 0}, {-1, 0}, {0, -1}, {math.MinInt, math.MaxInt}, {7, 7}} {
-		c, e := pair.Classes(real(samples.Ring(4)), x[0], x[1])
-		p, f := pair.Parts(real(samples.Ring(4)), x[0], x[1])
+		c, e := pair.Classes(samples.Links(samples.Ring(4)), x[0], x[1])
+		p, f := pair.Parts(samples.Links(samples.Ring(4)), x[0], x[1])
 		if e != api.ErrTwo || f != api.ErrTwo || c != nil || p {
 			t.Error(x, c, e, p, f)
 		}
@@ -52,7 +43,7 @@ func TestErrors(t *testing.T) {
 }
 
 func TestExamples(t *testing.T) {
-	ring := real(samples.Ring(4))
+	ring := samples.Links(samples.Ring(4))
 	for _, x := range [][3]int{{0, 2, 1}, {1, 3, 1}, {3, 1, 1}, {0, 1, 0}, {2, 3, 0}} {
 		if p, e := pair.Parts(ring, x[0], x[1]); e != api.OK || p != (x[2] == 1) {
 			t.Error(x, p, e)
@@ -66,9 +57,9 @@ func TestExamples(t *testing.T) {
 		a, b int
 		ok   bool
 	}{
-		{ring, 0, 2, true}, {real(samples.Ring(3)), 0, 0, false}, {side(4), 2, 7, true}, {side(3), 0, 0, false}, {side(2), 0, 0, false}, {side(1), 0, 0, false}, {side(1000), 2, 7, true},
-		{real(samples.Complete(4)), 0, 0, false}, {real(samples.Petersen()), 0, 0, false}, {real(samples.Bipartite(2, 3)), 0, 1, true}, {real(samples.Wheel(9)), 0, 0, false},
-		{links.Sorted(append(real(samples.Ring(3)), link(1, 2, 9))), 1, 2, true}, {links.Sorted(append(real(samples.Complete(4)), link(1, 3, 9))), 1, 3, true},
+		{ring, 0, 2, true}, {samples.Links(samples.Ring(3)), 0, 0, false}, {side(4), 2, 7, true}, {side(3), 0, 0, false}, {side(2), 0, 0, false}, {side(1), 0, 0, false}, {side(1000), 2, 7, true},
+		{samples.Links(samples.Complete(4)), 0, 0, false}, {samples.Links(samples.Petersen()), 0, 0, false}, {samples.Links(samples.Bipartite(2, 3)), 0, 1, true}, {samples.Links(samples.Wheel(9)), 0, 0, false},
+		{links.Sorted(append(samples.Links(samples.Ring(3)), link(1, 2, 9))), 1, 2, true}, {links.Sorted(append(samples.Links(samples.Complete(4)), link(1, 3, 9))), 1, 3, true},
 	} {
 		if a, b, ok, e := pair.First(x.l); e != api.OK || a != x.a || b != x.b || ok != x.ok {
 			t.Error(i, a, b, ok, e)
@@ -102,7 +93,7 @@ func some(d *samples.Dice) []api.Link {
 	if d.Roll(2) == 0 {
 		g = d.Any(2+d.Roll(6), 12)
 	}
-	l := real(g)
+	l := samples.Links(g)
 	for range d.Roll(4) {
 		if len(l) > 0 {
 			l = append(l, link(l[d.Roll(len(l))].A, l[d.Roll(len(l))].B, 1+d.Roll(5)))
@@ -151,7 +142,7 @@ func TestAgainstPlain(t *testing.T) {
 func TestLarge(t *testing.T) {
 	begin := time.Now()
 	for _, g := range []api.Graph{samples.Prism(333), samples.Wheel(500), samples.Complete(45)} {
-		if a, b, ok, e := pair.First(real(g)); e != api.OK || ok {
+		if a, b, ok, e := pair.First(samples.Links(g)); e != api.OK || ok {
 			t.Error(a, b, ok, e)
 		}
 	}

@@ -51,15 +51,6 @@ func coloured(d *samples.Dice, x api.Dress, n int) api.Dress {
 	return x
 }
 
-// numbers are four bytes each.
-func numbers(ns ...int) []byte {
-	var out []byte
-	for _, n := range ns {
-		out = append(out, byte(n>>24), byte(n>>16), byte(n>>8), byte(n))
-	}
-	return out
-}
-
 func zero(s api.Seen) bool {
 	return s.Code == nil && s.Verts == nil && s.Links == nil && s.There == nil
 }
@@ -101,12 +92,12 @@ func TestBond(t *testing.T) {
 	x := side(3)
 	x.Vert, x.Side = []int{0, 7}, [][2]int{{5, 5}, {1, 2}, {1, 1}}
 	s, e := part.From(x, 0, true)
-	want := api.Seen{Code: numbers(2, 0, 7, 3, 5, 5, 1, 1, 1, 2), Verts: []int{4, 9}, Links: []int{0, 2, 1}, There: []bool{true, true, true}}
+	want := api.Seen{Code: samples.Numbers(2, 0, 7, 3, 5, 5, 1, 1, 1, 2), Verts: []int{4, 9}, Links: []int{0, 2, 1}, There: []bool{true, true, true}}
 	if e != api.OK || !reflect.DeepEqual(s, want) {
 		t.Error(s, e)
 	}
 	s, e = part.From(x, 0, false)
-	want = api.Seen{Code: numbers(2, 7, 0, 3, 5, 5, 1, 1, 2, 1), Verts: []int{9, 4}, Links: []int{0, 2, 1}, There: []bool{false, false, false}}
+	want = api.Seen{Code: samples.Numbers(2, 7, 0, 3, 5, 5, 1, 1, 2, 1), Verts: []int{9, 4}, Links: []int{0, 2, 1}, There: []bool{false, false, false}}
 	if e != api.OK || !reflect.DeepEqual(s, want) {
 		t.Error(s, e)
 	}
@@ -148,18 +139,18 @@ func TestExamples(t *testing.T) {
 	x.Vert, x.Side = []int{10, 20, 50}, [][2]int{{12, 21}, {15, 51}, {25, 52}}
 	skin := api.Skin{
 		Rot:  api.Rot{{1, 2}, {0, 2}, {0, 1}},
-		Vert: [][]byte{numbers(10), numbers(20), numbers(50)},
-		Dart: [][][]byte{{numbers(12), numbers(15)}, {numbers(21), numbers(25)}, {numbers(51), numbers(52)}},
+		Vert: [][]byte{samples.Numbers(10), samples.Numbers(20), samples.Numbers(50)},
+		Dart: [][][]byte{{samples.Numbers(12), samples.Numbers(15)}, {samples.Numbers(21), samples.Numbers(25)}, {samples.Numbers(51), samples.Numbers(52)}},
 	}
 	w, _ := rigid.From(skin, 0, 0)
 	s, e := part.From(x, 0, true)
-	want := api.Seen{Code: append(numbers(api.KindS), w[0].Code...), Verts: []int{1, 2, 5}, Links: []int{0, 1, 2}, There: []bool{true, true, true}}
+	want := api.Seen{Code: append(samples.Numbers(api.KindS), w[0].Code...), Verts: []int{1, 2, 5}, Links: []int{0, 1, 2}, There: []bool{true, true, true}}
 	if e != api.OK || !reflect.DeepEqual(s, want) {
 		t.Error(s, e)
 	}
 	w, _ = rigid.From(skin, 2, 1)
 	s, e = part.From(x, 2, false)
-	if e != api.OK || !bytes.Equal(s.Code, append(numbers(api.KindS), w[0].Code...)) || !slices.Equal(s.Verts[:1], []int{5}) || s.There[0] {
+	if e != api.OK || !bytes.Equal(s.Code, append(samples.Numbers(api.KindS), w[0].Code...)) || !slices.Equal(s.Verts[:1], []int{5}) || s.There[0] {
 		t.Error(s, e)
 	}
 }

@@ -16,17 +16,8 @@ import (
 
 func link(a, b, v int) api.Link { return api.Link{A: a, B: b, V: v} }
 
-// real are a graph's edges as links.
-func real(g api.Graph) []api.Link {
-	var out []api.Link
-	for _, e := range g.Edges {
-		out = append(out, link(e[0], e[1], 0))
-	}
-	return out
-}
-
 func TestExamples(t *testing.T) {
-	p, n, e := split.Split(real(samples.Ring(4)), 1)
+	p, n, e := split.Split(samples.Links(samples.Ring(4)), 1)
 	want := [][]api.Link{{link(0, 1, 0), link(0, 2, 1), link(1, 2, 0)}, {link(0, 2, 1), link(0, 3, 0), link(2, 3, 0)}}
 	if e != api.OK || n != 2 || !reflect.DeepEqual(p, want) {
 		t.Error(p, n, e)
@@ -36,7 +27,7 @@ func TestExamples(t *testing.T) {
 	if e != api.OK || n != 6 || !reflect.DeepEqual(p, want) {
 		t.Error(p, n, e)
 	}
-	for _, l := range [][]api.Link{{link(0, 1, 0)}, {link(0, 1, 0), link(0, 1, 4)}, real(samples.Ring(3)), real(samples.Complete(4)), real(samples.Petersen())} {
+	for _, l := range [][]api.Link{{link(0, 1, 0)}, {link(0, 1, 0), link(0, 1, 4)}, samples.Links(samples.Ring(3)), samples.Links(samples.Complete(4)), samples.Links(samples.Petersen())} {
 		if p, n, e := split.Split(l, 7); e != api.OK || n != 7 || !reflect.DeepEqual(p, [][]api.Link{l}) {
 			t.Error(p, n, e)
 		}
@@ -44,13 +35,13 @@ func TestExamples(t *testing.T) {
 }
 
 func TestErrors(t *testing.T) {
-	ring := real(samples.Ring(4))
+	ring := samples.Links(samples.Ring(4))
 	for i, x := range []struct {
 		l    []api.Link
 		next int
 		want api.Errno
 	}{
-		{nil, 1, api.ErrTwo}, {real(samples.Path(3)), 0, api.ErrTwo}, {[]api.Link{link(1, 0, 0)}, 1, api.ErrTwo}, {ring, 0, api.ErrLinks}, {ring, -1, api.ErrLinks}, {ring, math.MinInt, api.ErrLinks},
+		{nil, 1, api.ErrTwo}, {samples.Links(samples.Path(3)), 0, api.ErrTwo}, {[]api.Link{link(1, 0, 0)}, 1, api.ErrTwo}, {ring, 0, api.ErrLinks}, {ring, -1, api.ErrLinks}, {ring, math.MinInt, api.ErrLinks},
 		{ring, math.MaxInt, api.ErrLinks}, {ring, api.MaxVertex - api.MaxLinks + 1, api.ErrLinks}, {[]api.Link{link(0, 1, 0), link(0, 1, 3)}, 3, api.ErrLinks}, {[]api.Link{link(0, 1, 9)}, 3, api.ErrLinks},
 	} {
 		if p, n, e := split.Split(x.l, x.next); e != x.want || p != nil || n != 0 {
@@ -90,7 +81,7 @@ func plainSplit(l []api.Link, next int) ([][]api.Link, int) {
 
 // some are two-connected links by chance, with some side by side.
 func some(d *samples.Dice) []api.Link {
-	l := real(d.Strung(3 + d.Roll(15)))
+	l := samples.Links(d.Strung(3 + d.Roll(15)))
 	for range d.Roll(6) {
 		x := l[d.Roll(len(l))]
 		l = append(l, link(x.A, x.B, 1+d.Roll(9)))
@@ -146,7 +137,7 @@ func rejoin(t *testing.T, d *samples.Dice, l []api.Link, p [][]api.Link, n int) 
 func TestJoinWrong(t *testing.T) {
 	a := []api.Link{link(0, 1, 0), link(0, 2, 1), link(1, 2, 0)}
 	b := []api.Link{link(0, 2, 1), link(0, 3, 0), link(2, 3, 0)}
-	if l, e := split.Join(a, b, 1); e != api.OK || !slices.Equal(l, real(samples.Ring(4))) {
+	if l, e := split.Join(a, b, 1); e != api.OK || !slices.Equal(l, samples.Links(samples.Ring(4))) {
 		t.Error(l, e)
 	}
 	for i, x := range []struct {
@@ -177,7 +168,7 @@ func TestLarge(t *testing.T) {
 		side = append(side, link(0, 1, i))
 	}
 	begin := time.Now()
-	for _, l := range [][]api.Link{real(samples.Ring(1000)), side, real(samples.Bipartite(2, 500)), real(samples.Grid(22, 22))} {
+	for _, l := range [][]api.Link{samples.Links(samples.Ring(1000)), side, samples.Links(samples.Bipartite(2, 500)), samples.Links(samples.Grid(22, 22))} {
 		p, n, e := split.Split(l, 1001)
 		if e != api.OK || len(p) != n-1000 || len(p) >= len(l) {
 			t.Error(len(l), len(p), n, e)

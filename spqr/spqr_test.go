@@ -17,15 +17,6 @@ import (
 
 func link(a, b, v int) api.Link { return api.Link{A: a, B: b, V: v} }
 
-// real are a graph's edges as links.
-func real(g api.Graph) []api.Link {
-	var out []api.Link
-	for _, e := range g.Edges {
-		out = append(out, link(e[0], e[1], 0))
-	}
-	return out
-}
-
 // bond are two triangles on a link 0 1: a bond, and both.
 func bond() []api.Part {
 	return []api.Part{
@@ -40,11 +31,11 @@ func TestKind(t *testing.T) {
 		l    []api.Link
 		want int
 	}{
-		{nil, 0}, {real(samples.Path(2)), 0}, {[]api.Link{link(0, 1, 0), link(0, 1, 1)}, 0}, {[]api.Link{link(0, 1, 0), link(0, 1, 1), link(0, 1, 2)}, api.KindP}, {[]api.Link{link(0, 1, 1), link(0, 1, 0), link(0, 1, 2)}, 0},
-		{real(samples.Ring(3)), api.KindS}, {real(samples.Ring(9)), api.KindS}, {real(samples.Complete(4)), api.KindR}, {real(samples.Petersen()), api.KindR}, {real(samples.Complete(20)), api.KindR},
-		{real(samples.Path(4)), 0}, {real(samples.Beside(samples.Ring(3), samples.Ring(3))), 0}, {real(samples.Star(3)), 0}, {real(samples.Bipartite(2, 3)), 0}, {real(samples.Bipartite(3, 3)), api.KindR},
-		{[]api.Link{link(0, 1, 0), link(0, 1, 1), link(0, 2, 0), link(1, 2, 0)}, 0}, {links.Sorted(append(real(samples.Complete(4)), link(0, 1, 1))), 0}, {[]api.Link{link(0, 1, 4), link(0, 2, 0), link(1, 2, 3)}, api.KindS},
-		{real(samples.Prism(3)), api.KindR}, {real(samples.Wheel(50)), api.KindR}, {real(samples.Grid(3, 3)), 0},
+		{nil, 0}, {samples.Links(samples.Path(2)), 0}, {[]api.Link{link(0, 1, 0), link(0, 1, 1)}, 0}, {[]api.Link{link(0, 1, 0), link(0, 1, 1), link(0, 1, 2)}, api.KindP}, {[]api.Link{link(0, 1, 1), link(0, 1, 0), link(0, 1, 2)}, 0},
+		{samples.Links(samples.Ring(3)), api.KindS}, {samples.Links(samples.Ring(9)), api.KindS}, {samples.Links(samples.Complete(4)), api.KindR}, {samples.Links(samples.Petersen()), api.KindR}, {samples.Links(samples.Complete(20)), api.KindR},
+		{samples.Links(samples.Path(4)), 0}, {samples.Links(samples.Beside(samples.Ring(3), samples.Ring(3))), 0}, {samples.Links(samples.Star(3)), 0}, {samples.Links(samples.Bipartite(2, 3)), 0}, {samples.Links(samples.Bipartite(3, 3)), api.KindR},
+		{[]api.Link{link(0, 1, 0), link(0, 1, 1), link(0, 2, 0), link(1, 2, 0)}, 0}, {links.Sorted(append(samples.Links(samples.Complete(4)), link(0, 1, 1))), 0}, {[]api.Link{link(0, 1, 4), link(0, 2, 0), link(1, 2, 3)}, api.KindS},
+		{samples.Links(samples.Prism(3)), api.KindR}, {samples.Links(samples.Wheel(50)), api.KindR}, {samples.Links(samples.Grid(3, 3)), 0},
 	} {
 		if k := spqr.Kind(x.l); k != x.want {
 			t.Error(i, k)
@@ -53,11 +44,11 @@ func TestKind(t *testing.T) {
 }
 
 func TestExamples(t *testing.T) {
-	p, e := spqr.Tree(real(samples.Ring(4)))
-	if e != api.OK || len(p) != 1 || p[0].Kind != api.KindS || !slices.Equal(p[0].Links, real(samples.Ring(4))) || !slices.Equal(spqr.Centre(p), []int{0}) {
+	p, e := spqr.Tree(samples.Links(samples.Ring(4)))
+	if e != api.OK || len(p) != 1 || p[0].Kind != api.KindS || !slices.Equal(p[0].Links, samples.Links(samples.Ring(4))) || !slices.Equal(spqr.Centre(p), []int{0}) {
 		t.Error(p, e)
 	}
-	p, e = spqr.Tree(real(samples.Complete(4)))
+	p, e = spqr.Tree(samples.Links(samples.Complete(4)))
 	if e != api.OK || len(p) != 1 || p[0].Kind != api.KindR {
 		t.Error(p, e)
 	}
@@ -69,8 +60,8 @@ func TestExamples(t *testing.T) {
 
 func TestTreeWrong(t *testing.T) {
 	for i, l := range [][]api.Link{
-		nil, {link(0, 1, 0)}, {link(0, 1, 0), link(0, 1, 1)}, real(samples.Path(3)), real(samples.Star(4)), {link(0, 2, 0), link(0, 1, 0), link(1, 2, 0)}, {link(0, 1, 1), link(0, 2, 0), link(1, 2, 0)},
-		real(samples.Beside(samples.Ring(3), samples.Ring(3))), {link(1, 0, 0)},
+		nil, {link(0, 1, 0)}, {link(0, 1, 0), link(0, 1, 1)}, samples.Links(samples.Path(3)), samples.Links(samples.Star(4)), {link(0, 2, 0), link(0, 1, 0), link(1, 2, 0)}, {link(0, 1, 1), link(0, 2, 0), link(1, 2, 0)},
+		samples.Links(samples.Beside(samples.Ring(3), samples.Ring(3))), {link(1, 0, 0)},
 	} {
 		if p, e := spqr.Tree(l); e != api.ErrParts || p != nil {
 			t.Error(i, p, e)
@@ -178,7 +169,7 @@ func TestTree(t *testing.T) {
 	kinds := map[int]int{}
 	for range 400 {
 		g := d.Strung(3 + d.Roll(25))
-		l := real(g)
+		l := samples.Links(g)
 		p, e := spqr.Tree(l)
 		if e != api.OK || !spqr.Right(p) || !slices.Equal(spqr.Whole(p), l) {
 			t.Fatal(l, p, e)
@@ -197,7 +188,7 @@ func TestTree(t *testing.T) {
 		}
 		called := d.Perm(g.N)
 		h := samples.Called(g, called)
-		if q, _ := spqr.Tree(real(h)); !reflect.DeepEqual(told(p, called), told(q, identity(g.N))) {
+		if q, _ := spqr.Tree(samples.Links(h)); !reflect.DeepEqual(told(p, called), told(q, identity(g.N))) {
 			t.Fatal(g, called)
 		}
 	}
@@ -210,7 +201,7 @@ func TestCentre(t *testing.T) {
 	var d samples.Dice
 	sizes := map[int]int{}
 	for range 300 {
-		p, _ := spqr.Tree(real(d.Strung(3 + d.Roll(30))))
+		p, _ := spqr.Tree(samples.Links(d.Strung(3 + d.Roll(30))))
 		var depths []int
 		for i := range p {
 			depths = append(depths, deepest(p, i, -1))
@@ -246,7 +237,7 @@ func deepest(p []api.Part, i, from int) int {
 func TestPartsAreNotParted(t *testing.T) {
 	var d samples.Dice
 	for range 50 {
-		p, _ := spqr.Tree(real(d.Planar(30, 60)))
+		p, _ := spqr.Tree(samples.Links(d.Planar(30, 60)))
 		for _, x := range p {
 			if _, _, parts, e := pair.First(x.Links); x.Kind == api.KindR && (parts || e != api.OK) {
 				t.Error(x)
@@ -258,7 +249,7 @@ func TestPartsAreNotParted(t *testing.T) {
 func TestLarge(t *testing.T) {
 	begin := time.Now()
 	for _, g := range []api.Graph{samples.Ring(1000), samples.Bipartite(2, 500), samples.Grid(22, 22), samples.Prism(333), samples.Complete(45)} {
-		p, e := spqr.Tree(real(g))
+		p, e := spqr.Tree(samples.Links(g))
 		if e != api.OK || !spqr.Right(p) || len(spqr.Whole(p)) != len(g.Edges) {
 			t.Error(g.N, len(p), e)
 		}
